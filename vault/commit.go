@@ -135,3 +135,8 @@ func (v *Vault) use(place int, used bool) {
 		v.used[place] = used
 	}
 }
+
+// isUsed: does a node lie at a place?
+func (v *Vault) isUsed(place int) bool {
+	return place >= 0 && place < len(v.used) && v.used[place]
+}

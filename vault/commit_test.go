@@ -107,31 +107,36 @@ func TestCommitOfNothing(t *testing.T) {
 	}
 }
 
-// P11: the lowest free place; what a Commit replaces is free only behind it.
+// P11, P13: the lowest free place; what a Commit replaces is free only behind it. An Open ahead of each Commit changes nothing in that.
 func TestPlaces(t *testing.T) {
-	d, v := formatted(t, 8, 50)
-	for i, c := range []struct {
-		changes string
-		places  []int // of the new nodes
-	}{
-		{"a=1", []int{2}},
-		{"a=2", []int{3}},
-		{"a=3", []int{2}},
-		{"b=1 c=1 d=1 e=1 f=1", []int{3, 4, 5}},
-		{"f=2", []int{2, 6}},
-		{"a=1", []int{4, 5}},
-		{"-d -e", []int{3}},
-		{"-a -b -c -f", nil},
-		{"a=1 b=1 c=1 d=1 e=1 f=1 g=1 h=1 i=1", []int{2, 3, 4, 5}},
-	} {
-		before, since := tree(t, d, pass), len(d.Wrote)
-		done(t, v, c.changes)
-		var places []int
-		for _, w := range d.Wrote[since : len(d.Wrote)-1] {
-			places = append(places, w.At)
-		}
-		if fmt.Sprint(places) != fmt.Sprint(c.places) {
-			t.Errorf("step %d, %q: places %v, want %v (%s before)", i, c.changes, places, c.places, before.shape())
+	for _, opens := range []bool{false, true} {
+		d, v := formatted(t, 8, 50)
+		for i, c := range []struct {
+			changes string
+			places  []int // of the new nodes
+		}{
+			{"a=1", []int{2}},
+			{"a=2", []int{3}},
+			{"a=3", []int{2}},
+			{"b=1 c=1 d=1 e=1 f=1", []int{3, 4, 5}},
+			{"f=2", []int{2, 6}},
+			{"a=1", []int{4, 5}},
+			{"-d -e", []int{3}},
+			{"-a -b -c -f", nil},
+			{"a=1 b=1 c=1 d=1 e=1 f=1 g=1 h=1 i=1", []int{2, 3, 4, 5}},
+		} {
+			if opens {
+				v = again(t, d, v)
+			}
+			before, since := tree(t, d, pass), len(d.Wrote)
+			done(t, v, c.changes)
+			var places []int
+			for _, w := range d.Wrote[since : len(d.Wrote)-1] {
+				places = append(places, w.At)
+			}
+			if fmt.Sprint(places) != fmt.Sprint(c.places) {
+				t.Errorf("step %d, %q: places %v, want %v (%s before)", i, c.changes, places, c.places, before.shape())
+			}
 		}
 	}
 }

@@ -50,7 +50,7 @@ func TestExamples(t *testing.T) {
 	row(t, d, 6, "12 45587bf1604237d2")
 }
 
-// The document's other examples that need no Open.
+// The document's other examples.
 func TestOtherExamples(t *testing.T) {
 	d, v := world(t, 3, 50)
 	want(t, "Format", v.Format(""), api.OK)
@@ -86,4 +86,37 @@ func TestOtherExamples(t *testing.T) {
 	if len(d.Wrote) != 4 || v.IsOpen() {
 		t.Errorf("%d writes, open is %v", len(d.Wrote), v.IsOpen())
 	}
+	d.Fuse(6)
+	want(t, "Open", v.Open("p"), api.ErrDown)
+	d.Crash("")
+	v = Of(d)
+	want(t, "Open", v.Open("p"), api.OK)
+	checkGet(t, v, "a", "1", api.OK)
+}
+
+// The document's last example: slots that are turned back.
+func TestElderSlots(t *testing.T) {
+	d, v := world(t, 8, 50)
+	want(t, "Format", v.Format("p"), api.OK)
+	want(t, "Close", v.Close(), api.OK)
+	d.Poke(1, d.Wrote[0].Text)
+	want(t, "block 1 as it was", v.Open("p"), api.OK)
+
+	d, v = world(t, 8, 50)
+	want(t, "Format", v.Format("p"), api.OK)
+	want(t, "Close", v.Close(), api.OK)
+	d.Poke(0, d.Wrote[0].Text)
+	refused(t, "the slot of version 1 in block 0", d, v, "p", api.ErrTampered)
+
+	d, v = world(t, 8, 50)
+	want(t, "Format", v.Format("p"), api.OK)
+	done(t, v, "a=1")
+	v = Of(d)
+	want(t, "Open", v.Open("p"), api.OK)
+	done(t, v, "a=2")
+	want(t, "Close", v.Close(), api.OK)
+	d.Poke(0, d.Wrote[1].Text)
+	refused(t, "the slot of version 2 again", d, v, "p", api.ErrTampered)
+	d.Poke(0, d.Wrote[4].Text)
+	refused(t, "the slot of version 4 again", d, v, "p", api.ErrTampered)
 }

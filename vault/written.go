@@ -37,6 +37,23 @@ func (k keys) slotText(salt string, version int, root link) string {
 	return filled(t+tag, api.Block)
 }
 
+// slotOf: the salt and the root that a block tells, whether it is a slot or not: its tag tells that.
+func slotOf(block string) (string, link) {
+	c := &cursor{text: block}
+	c.take(len(mark))
+	salt := c.take(api.Salt)
+	c.take(numbers)
+	root := link{}
+	root.place = c.number()
+	root.digest = c.take(sha.Size)
+	return salt, root
+}
+
+// isSlot: does a block hold this slot? What is behind its first sector does not count: a crash may keep the one without the other.
+func isSlot(block string, slot string) bool {
+	return len(block) == api.Block && filled(block[:api.Sector], api.Block) == slot
+}
+
 // pageText: a page, as it is written (P6): the how manieth of its session, and where.
 func (k keys) pageText(session int, nth int, place int, node string) string {
 	nonce := numberText(session, numbers) + numberText(nth, nonceSize-numbers)
