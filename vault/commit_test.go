@@ -29,23 +29,6 @@ func TestCommitOperations(t *testing.T) {
 	}
 }
 
-// P15: a Commit of five reads and five pages, with ever fewer operations.
-func TestCommitDown(t *testing.T) {
-	const needs = 5 + 5 + 4
-	for n := 0; n <= needs; n++ {
-		d, v := deep(t)
-		ask(t, v, "a=2 x=2")
-		d.Fuse(n)
-		want(t, "Commit", v.Commit(), downBelow(n, needs))
-		if v.IsOpen() != (n == needs) {
-			t.Errorf("%d operations: open is %v", n, v.IsOpen())
-		}
-		if wrote := len(d.Wrote) - 17; n < 10 && wrote != max(n-5, 0) {
-			t.Errorf("%d operations: %d writes", n, wrote)
-		}
-	}
-}
-
 // P11, P12, P14: how many operations Commits do: reads, pages, and Flush, slot, Flush, Bump.
 func TestCommitReads(t *testing.T) {
 	for _, c := range []struct {

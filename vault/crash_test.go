@@ -100,33 +100,6 @@ func TestSlotOutOfCache(t *testing.T) {
 	}
 }
 
-// P8, P13: whenever a Format stops, the elder vault or the new one can be opened; behind a Format that is OK only the new one.
-func TestCrashedFormat(t *testing.T) {
-	for n := 0; n <= 8; n++ {
-		for _, c := range choices(1) {
-			d, v := formatted(t, 5, 50)
-			done(t, v, "a=1")
-			want(t, "Close", v.Close(), api.OK)
-			d.Lay("new salt")
-			d.Fuse(n)
-			want(t, "Format", v.Format("new"), downBelow(n, 8))
-			d.Crash(c)
-			v = Of(d)
-			e := v.Open("new")
-			if e == api.OK {
-				checkScan(t, v, "", "z", "")
-				continue
-			}
-			want(t, "the new password", e, api.ErrTampered)
-			if n >= 5 {
-				t.Fatalf("%d operations, the crash keeps %x: the new vault is not there", n, c)
-			}
-			want(t, "the elder password", v.Open(pass), api.OK)
-			checkScan(t, v, "", "z", "a=1")
-		}
-	}
-}
-
 // elderly: a world with its history, and what must be found in it.
 type elderly struct {
 	t     *testing.T

@@ -1,6 +1,7 @@
 package vault
 
 import (
+	"fmt"
 	"math/rand"
 	"slices"
 	"strings"
@@ -315,6 +316,56 @@ func TestWrongTrees(t *testing.T) {
 			want(t, x.what+", an operation fewer", v.Open(pass), api.ErrDown)
 		}
 	}
+}
+
+// level: nodes of one level, one behind the other: how each is named, and its least key.
+type level struct{ names, keys []string }
+
+// above: the level above one: of so many children each.
+func (l level) above(h *hand, place int, sizes ...int) level {
+	up := level{}
+	at := 0
+	for i, n := range sizes {
+		up.names = append(up.names, h.page(place+i, innerOf(strings.Join(l.keys[at:at+n], " "), l.names[at:at+n]...)))
+		up.keys = append(up.keys, l.keys[at])
+		at += n
+	}
+	return up
+}
+
+// P13, P14: a tree that has each place of the greatest disk, from 2 to the last: all its 46 nodes may be looked at in one call, and each is.
+func TestFullDisk(t *testing.T) {
+	d, _ := world(t, 48, 50)
+	h := handOver(t, d, pass, "full")
+	leaves := level{}
+	for i := range 35 {
+		k := fmt.Sprintf("%02d", i)
+		leaves.names = append(leaves.names, h.page(47-i, leafOf(k+"a "+k+"b")))
+		leaves.keys = append(leaves.keys, k+"a")
+	}
+	root := leaves.above(h, 5, 5, 5, 5, 4, 4, 4, 4, 4).above(h, 3, 4, 4).above(h, 2, 2)
+	h.slot(0, root.names[0])
+	v := Of(d)
+	n := spent(d, func() { want(t, "Open", v.Open(pass), api.OK) })
+	if n != 3+46+6 {
+		t.Errorf("Open did %d operations, want 55", n)
+	}
+	all := words(tree(t, d, pass).pairs())
+	if n := spent(d, func() { checkScan(t, v, "", "z", all) }); n != 46 {
+		t.Errorf("Scan did %d operations, want 46", n)
+	}
+	for k := 2; k < 48; k++ {
+		good := d.Look(k)
+		d.Poke(k, bent(good, 128))
+		_, e := v.Scan("", "z")
+		want(t, "Scan of a page that was changed", e, api.ErrTampered)
+		d.Poke(k, good)
+	}
+	ask(t, v, "00a=2")
+	refusal(t, d, v, api.ErrSpace)
+	want(t, "Abort", v.Abort(), api.OK)
+	done(t, v, "-00 -01 -02 -03 -04")
+	checkScan(t, v, "", "z", all)
 }
 
 // P13: a page of the tree that was changed anywhere, or put at another place, or that is an elder one.

@@ -293,25 +293,3 @@ func TestOpenOperations(t *testing.T) {
 		checkScan(t, v, "", "z", "a=1")
 	}
 }
-
-// P15: with ever fewer operations an Open of three levels is ErrDown, and the vault is closed; nothing is done behind it.
-func TestOpenDown(t *testing.T) {
-	const needs = 3 + 11 + 6
-	for n := 0; n <= needs; n++ {
-		d, v := deep(t)
-		want(t, "Close", v.Close(), api.OK)
-		wrote := len(d.Wrote)
-		d.Fuse(n)
-		want(t, "Open", v.Open(pass), downBelow(n, needs))
-		if v.IsOpen() != (n == needs) {
-			t.Errorf("%d operations: open is %v", n, v.IsOpen())
-		}
-		if n < needs {
-			closedCalls(t, v)
-			want(t, "Open again", v.Open(pass), api.ErrDown)
-		}
-		if n <= 14 && len(d.Wrote) != wrote {
-			t.Errorf("%d operations: %d writes", n, len(d.Wrote)-wrote)
-		}
-	}
-}
